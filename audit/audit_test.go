@@ -137,6 +137,7 @@ func TestName(t *testing.T) {
 		}
 	}
 	check(t, Places(with(6, func(p *view.Place) { p.Row.Name, p.Path = "z/z", "/z/z" })), Finding{Name, 6})
+	check(t, Places([]view.Place{sample()[0], {Path: "/..", Depth: 1, Row: listing.Row{Name: "..", Nodes: []api.Stamp{at(9)}}}}), Finding{Name, 1})
 	check(t, Places(with(6, func(p *view.Place) { p.Row.Name, p.Path = strings.Repeat("z", 255), "/"+strings.Repeat("z", 255) })))
 }
 

@@ -570,6 +570,14 @@ func TestAnOpThatIsNotBehindTheFloorIsLetGo(t *testing.T) {
 	}
 }
 
+func TestAStampThatIsTheFloorIsNotBehindIt(t *testing.T) {
+	c := Conf{Rep: 0, Reps: 64, Most: 200, Nodes: 100}
+	r := opened(t, c, stored(t, &state.State{Time: 9, Floor: at(3, 63)}))
+	_, e := r.Receive(batch(t, 1, 0, o(63, 1, 3, "late"), o(62, 1, 4, "x"), o(63, 2, 5, "follows")))
+	told(t, e, api.OK)
+	shows(t, r, "/x/")
+}
+
 func TestWhereThereIsNoRoomItGoesNoFurther(t *testing.T) {
 	d := made(t, 50)
 	r := opened(t, conf(1), d)

@@ -139,6 +139,10 @@ func TestWhatIsRefusedChangesNothing(t *testing.T) {
 
 func TestHeard(t *testing.T) {
 	s := made(t, 0, 3)
+	if !s.Heard(1, knows(1, 1), 9) {
+		t.Error("Heard")
+	}
+	has(t, s, 1, knows(1, 1), 0)
 	s.Mine(knows(0, 9, 1, 4), 20)
 	if !s.Heard(1, knows(0, 3, 1, 4, 2, 8), 11) {
 		t.Error("Heard")

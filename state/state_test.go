@@ -104,6 +104,7 @@ func wrong() []State {
 		with(func(s *State) { s.Known[9] = 1 }),
 		with(func(s *State) { s.Rows[0], s.Rows[1] = s.Rows[1], s.Rows[0] }),
 		with(func(s *State) { s.Rows[1].Node = s.Rows[0].Node }),
+		with(func(s *State) { s.Rows[2].Node = s.Rows[1].Node }),
 		with(func(s *State) { s.Rows[1].E.Parent = s.Rows[1].Node }),
 		with(func(s *State) { s.Rows[0].E.Name = "" }),
 		with(func(s *State) { s.Rows[0].E.Name = ".." }),

@@ -168,9 +168,10 @@ func TestAHistoryHasNoMoreThanMostThatWereDone(t *testing.T) {
 		h.Did(list(n))
 	}
 	length(t, h, 64, 0)
-	h.Did(list(64))
-	h.Did(list(65))
-	length(t, h, 64, 0)
+	for n := 64; n < 66; n++ {
+		h.Did(list(n))
+		length(t, h, 64, 0)
+	}
 	for n := 65; n > 1; n-- {
 		takes(t, h.Undo, n)
 	}

@@ -188,6 +188,11 @@ func TestStat(t *testing.T) {
 			t.Errorf("Stat(%s) = %v, %d, not %v", s, got, e, want)
 		}
 	}
+	// Where something hangs at a file it shows nothing all the same.
+	hang(c, at(20), at(7), "x")
+	if got, e := Stat(c, "/d~2"); got != (Info{Node: at(7)}) || e != api.OK {
+		t.Errorf("of a file Stat = %v, %d", got, e)
+	}
 	if got, e := Stat(cache.New(), "/lost+found"); got != (Info{stamp.Lost(), true, 0}) || e != api.OK {
 		t.Errorf("of nothing Stat = %v, %d", got, e)
 	}

@@ -345,6 +345,22 @@ func TestExchange(t *testing.T) {
 	}
 }
 
+func TestAnExchangeOfManyOps(t *testing.T) {
+	w := made(t, Conf{Reps: 2, Most: 5000, Nodes: 600, Room: 1 << 20})
+	for i := range 26 {
+		for j := range 20 {
+			do(t, w, api.OK, mkdir(0, "/"+string(rune('a'+i))+string(rune('a'+j))))
+		}
+	}
+	// Of 520 ops as many come as are told at once.
+	for _, n := range []int{512, 520, 520} {
+		do(t, w, api.OK, Step{Kind: Exchange, R: 1, N: 0})
+		if got := w.At(1).Known().Get(0); got != n {
+			t.Errorf("%d are known, not %d", got, n)
+		}
+	}
+}
+
 func TestAnExchangeTellsTheFirstError(t *testing.T) {
 	w := made(t, Conf{Reps: 2, Most: 200, Nodes: 99, Room: 60})
 	do(t, w, api.OK, mkdir(0, "/a"), mkdir(0, "/b"), mkdir(0, "/c"), mkdir(1, "/d"))
@@ -352,6 +368,20 @@ func TestAnExchangeTellsTheFirstError(t *testing.T) {
 	shows(t, w, 1, "/a /b /d")
 	if !w.Up(1) {
 		t.Error("it is down")
+	}
+	// Behind the first error nothing more is received, so that it is the last thing that is told.
+	w = made(t, Conf{Reps: 2, Most: 200, Nodes: 200, Room: 1800})
+	for i := range 26 {
+		for j := range 3 {
+			do(t, w, api.OK, mkdir(0, "/"+string(rune('a'+i))+string(rune('a'+j))))
+		}
+	}
+	for i := range 50 {
+		do(t, w, api.OK, mkdir(1, "/"+string(rune('A'+i))))
+	}
+	do(t, w, api.NoSpace, Step{Kind: Exchange, R: 1, N: 0})
+	if n := w.At(1).Known().Get(0); n < 30 || n >= 64 {
+		t.Errorf("%d came", n)
 	}
 	w = made(t, conf(2))
 	do(t, w, api.OK, mkdir(0, "/a"), mkdir(0, "/b"), mkdir(0, "/c"), Step{Kind: Arm, R: 1, N: 30})
