@@ -134,6 +134,9 @@ func TestDepths(t *testing.T) {
 	if got := Depths(nil); len(got) != 0 {
 		t.Errorf("of no place Depths = %v", got)
 	}
+	if got := Depths([]view.Place{{Depth: 2}, {Depth: -1}, {Depth: 2}}); !slices.Equal(got, []int{0, 0, 2}) {
+		t.Errorf("of depths that no namespace has Depths = %v", got)
+	}
 	for seed := range 50 {
 		if l := some(15, seed); !slices.Equal(Depths(l), depths(l)) {
 			t.Errorf("Depths = %v, not %v", Depths(l), depths(l))

@@ -590,6 +590,55 @@ func TestTheorems(t *testing.T) {
 	}
 }
 
+// asked is all that is asked of a replica.
+type asked struct {
+	known vec.Vec
+	time  int
+	floor api.Stamp
+	nodes int
+	ops   []api.Op
+	log   []api.Op
+	paths string
+}
+
+func ask(r *replica.Replica) asked {
+	return asked{r.Known(), r.Time(), r.Floor(), r.Nodes(), r.Ops(), r.Log(), paths(r)}
+}
+
+func (a asked) is(b asked) bool {
+	return a.known == b.known && a.time == b.time && a.floor == b.floor && a.nodes == b.nodes && slices.Equal(a.ops, b.ops) && slices.Equal(a.log, b.log) && a.paths == b.paths
+}
+
+func TestWhatIsRefusedChangesNothing(t *testing.T) {
+	refused, full := 0, 0
+	for seed := range 60 {
+		c := &chance{n: 5000 + seed}
+		w := made(t, Conf{Reps: 1 + c.next(3), Most: 16 + c.next(100), Nodes: 5 + c.next(20), Room: 150 + c.next(600)})
+		l := &ledger{seen: map[api.Stamp]api.Op{}, known: make([]vec.Vec, w.Reps()), time: make([]int, w.Reps())}
+		for range 300 {
+			s := c.step(w)
+			was, r := ask(w.At(s.R%w.Reps())), w.At(s.R%w.Reps())
+			e := w.Do(s)
+			switch {
+			case e == api.OK || r == nil || w.At(s.R) == nil:
+			case s.Kind == Call || s.Kind == Save || s.Kind == Digest:
+				refused++
+				if e == api.NoSpace {
+					full++
+				}
+				if now := ask(w.At(s.R)); w.At(s.R) != r || !now.is(was) {
+					t.Fatalf("T4: %v tells %d, and changed %v to %v", s, e, was, now)
+				}
+			}
+			l.note(t, w)
+		}
+		l.holds(t, w)
+	}
+	if refused < 1000 || full < 100 {
+		t.Errorf("only %d were refused, and of these %d as there was no room", refused, full)
+	}
+}
+
 // meet makes all come together.
 func meet(t *testing.T, w *World, c *chance, l *ledger) {
 	t.Helper()
